@@ -9,39 +9,39 @@ import (
 // nothing is the kind of a step where there is none.
 const nothing = 0
 
-// meeting is what p and q do at one place: a Del of p alone, an Ins of q alone, or what both do to a line of the middle (to more than one, if both skip them).
-type meeting struct{ p, q api.Op }
+// Meeting is what p and q do at one place: a Del of p alone, an Ins of q alone, or what both do to a line of the middle (to more than one, if both skip them). Where one of them does nothing, its step is zero.
+type Meeting struct{ P, Q api.Op }
 
-// middle tells whether it is at a line of the middle.
-func (m meeting) middle() bool {
-	return m.p.Kind != nothing && m.q.Kind != nothing
-}
-
-// agree tells whether the line of the middle can be what both know of it.
-func (m meeting) agree() bool {
-	return m.p.Kind == api.Skip || m.q.Kind == api.Skip || m.p.Text == m.q.Text
-}
-
-// told answers the one step that does what both do, or nothing: what p brings and q takes was never there.
-func (m meeting) told() api.Op {
+// Told answers the one step that does what both do, or a zero one: what p brings and q takes was never there.
+func (m Meeting) Told() api.Op {
 	switch {
-	case m.q.Kind == nothing:
-		return m.p
-	case m.p.Kind == nothing, m.p.Kind == api.Skip:
-		return m.q
-	case m.q.Kind == api.Skip:
-		return m.p
-	case m.p.Kind == api.Keep:
-		return m.q
-	case m.q.Kind == api.Keep:
-		return m.p
+	case m.Q.Kind == nothing:
+		return m.P
+	case m.P.Kind == nothing, m.P.Kind == api.Skip:
+		return m.Q
+	case m.Q.Kind == api.Skip:
+		return m.P
+	case m.P.Kind == api.Keep:
+		return m.Q
+	case m.Q.Kind == api.Keep:
+		return m.P
 	}
 	return api.Op{}
 }
 
-// meetings tells, in order, where p and q meet; both are Right.
-func meetings(p, q []api.Op) iter.Seq[meeting] {
-	return func(yield func(meeting) bool) {
+// middle tells whether it is at a line of the middle.
+func (m Meeting) middle() bool {
+	return m.P.Kind != nothing && m.Q.Kind != nothing
+}
+
+// agree tells whether the line of the middle can be what both know of it.
+func (m Meeting) agree() bool {
+	return m.P.Kind == api.Skip || m.Q.Kind == api.Skip || m.P.Text == m.Q.Text
+}
+
+// Meetings tells, in order, where p and q meet, with the texts that are handed in; both are ops.Right.
+func Meetings(p, q []api.Op) iter.Seq[Meeting] {
+	return func(yield func(Meeting) bool) {
 		first, second := row{left: p}, row{left: q}
 		for !first.ended() || !second.ended() {
 			if !yield(meet(&first, &second)) {
@@ -52,16 +52,16 @@ func meetings(p, q []api.Op) iter.Seq[meeting] {
 }
 
 // meet goes on to the next place, and answers what is there.
-func meet(p, q *row) meeting {
+func meet(p, q *row) Meeting {
 	if p.next().Kind == api.Del {
-		return meeting{p: p.pass(1)}
+		return Meeting{P: p.pass(1)}
 	}
 	if q.next().Kind == api.Ins {
-		return meeting{q: q.pass(1)}
+		return Meeting{Q: q.pass(1)}
 	}
 	// Line by line, a Skip of MaxNum would not come to its end.
 	n := min(long(p.next()), long(q.next()))
-	return meeting{p.pass(n), q.pass(n)}
+	return Meeting{p.pass(n), q.pass(n)}
 }
 
 // row is the steps that are still to be gone through, of the first one only what is left behind the lines that are gone.
